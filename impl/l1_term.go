@@ -133,6 +133,16 @@ func nodeWithin(t Term, room *int) (node, bool) {
 	return symbol{t.Sign, kids}, true
 }
 
+// signOf is 0 for a variable.
+func signOf(n node) int {
+	switch n := n.(type) {
+	case symbol:
+		return n.sign
+	default:
+		return 0
+	}
+}
+
 func kidsOf(n node) []node {
 	switch n := n.(type) {
 	case symbol:

@@ -69,12 +69,13 @@ func boundVars(s []impl.Bind) []int {
 	return vars
 }
 
-// applied is a term with a substitution applied, however large.
+// applied is a term with a substitution applied, however large. What has
+// arguments is no variable, whatever its sign.
 func applied(s []impl.Bind, t impl.Term) impl.Term {
-	if t.Sign == 0 {
+	if t.Sign == 0 && len(t.Kids) == 0 {
 		return valueOf(s, t.Var)
 	}
-	t = copyTerm(t)
+	t.Kids = slices.Clone(t.Kids)
 	for i, kid := range t.Kids {
 		t.Kids[i] = applied(s, kid)
 	}

@@ -74,35 +74,34 @@ func askLists() [][]impl.Rule {
 	return list
 }
 
-func TestAllIfAndOnlyIfAllPairsMeet(t *testing.T) {
+// A set that is complete need not be without one of its rules, even one that was
+// found only as a critical pair.
+func TestAllWithoutOneRule(t *testing.T) {
+	x := readTask(t, "f(x0,a) = x0; f(a,x0) = g(x0) | fgba")
+	rules := impl.DoneOf(x.eqs, x.rank).Rules
+	for i, want := range []bool{true, true, false} {
+		if !impl.AskAll(rules) || impl.AskAll(slices.Delete(slices.Clone(rules), i, i+1)) != want {
+			t.Errorf("%s without %s: %v", rulesText(rules), ruleText(rules[i]), !want)
+		}
+	}
 	yes, no := 0, 0
-	for _, rules := range askLists() {
-		want := len(rules) <= impl.RuleMax && meetBy(rules, pairsOfAll(rules))
-		if impl.AskAll(rules) != want || len(rules) <= impl.RuleMax && impl.PairsMeet(rules, allPairs(rules)) != want {
-			t.Fatalf("%s: %v", rulesText(rules), !want)
-		}
-		if want {
-			yes++
-		} else {
-			no++
-		}
-	}
-	if yes < 500 || no < 50 {
-		t.Errorf("%d meet, %d do not", yes, no)
-	}
-}
-
-func TestAllHoldsIfCompletionSucceeds(t *testing.T) {
 	eachResult(t, func(r result) {
-		if !impl.AskAll(r.done.Rules) {
-			t.Fatalf("%s", rulesText(r.done.Rules))
-		}
-		for _, p := range allPairs(r.done.Rules) {
-			if same, known := sameNorm(r.done.Rules, p.S, p.T); !same || !known {
-				t.Fatalf("%s and %s by %s", termText(p.S), termText(p.T), rulesText(r.done.Rules))
+		for i := range r.done.Rules {
+			rest := slices.Concat(r.done.Rules[:i], r.done.Rules[i+1:])
+			want := meetBy(rest, pairsOfAll(rest))
+			if impl.AskAll(rest) != want {
+				t.Fatalf("%s: %v", rulesText(rest), !want)
+			}
+			if want {
+				yes++
+			} else {
+				no++
 			}
 		}
 	}, impl.DoneAll)
+	if yes < 500 || no < 50 {
+		t.Errorf("%d meet, %d do not", yes, no)
+	}
 }
 
 // Too many links keep a pair from meeting, whose terms otherwise come to one.

@@ -102,6 +102,11 @@ func arityOf(sign int) int {
 	return -1
 }
 
+// signOfLetter is 0 for a letter that is no sign.
+func signOfLetter(letter byte) int {
+	return 1 + strings.IndexByte(signLetters, letter)
+}
+
 // nodeOf makes a node of a term that is well formed and not larger than limit.
 func nodeOf(t Term, limit int) (node, bool) {
 	room := limit
@@ -231,7 +236,7 @@ func (r *termReader) node() (node, bool) {
 	if r.skip("x") {
 		return r.variable()
 	}
-	sign := 1 + strings.IndexByte(signLetters, r.rest[0])
+	sign := signOfLetter(r.rest[0])
 	if sign == 0 {
 		return nil, false
 	}

@@ -66,6 +66,10 @@ func TestNewlines(t *testing.T) {
 		{"eq a = b\r\neq a = b\n", "no\neq 0\n"},
 		{"rank\nfgba\n", "what\nwhat\n"},
 		{"eq a =\nb\n", "no\nwhat\n"},
+		{"eq \na = b\n", "what\nwhat\n"},
+		{"ask \n\nask ", "what\nwhat\n"},
+		{"rank \nfgba", "what\nwhat\n"},
+		{"rank fgba \nx\n", "no\nwhat\n"},
 		{"\x00", "what\n"},
 	}
 	for _, c := range list {
@@ -88,9 +92,57 @@ func TestMalformedLinesAreAnsweredByNo(t *testing.T) {
 	}
 }
 
+func TestRankWithMoreWordsIsNoCommand(t *testing.T) {
+	for _, line := range wordyLines() {
+		mustRun(t, line, "what\n")
+		mustRun(t, "eq a = b\nrank abgf\n"+line+"\nmake\n", "eq 0\nrank\nwhat\nrule a to b by 1\nall\n")
+		mustRun(t, "eq a = b\n"+line+"\nmake\n", "eq 0\nwhat\nrule b to a by 1\nall\n")
+	}
+	for _, line := range []string{"rank x", "rank ffff", "rank  fgba", "rank fgba ", "rank   fgba   "} {
+		mustRun(t, "eq a = b\nrank abgf\n"+line+"\nmake\n", "eq 0\nrank\nno\nrule a to b by 1\nall\n")
+	}
+}
+
+func TestWordAloneIsNoCommand(t *testing.T) {
+	for _, line := range aloneLines() {
+		mustRun(t, line, "what\n")
+		mustRun(t, line+"\n", "what\n")
+		mustRun(t, "eq b = a\n"+line+"\nmake\n", "eq 0\nwhat\nrule b to a by 1\nall\n")
+		mustRun(t, strings.Repeat("eq b = a\n", impl.EqMax)+line+"\nmake\n", "eq 0\neq 1\neq 2\neq 3\neq 4\neq 5\nwhat\nrule b to a by 1\nall\n")
+	}
+	for _, text := range []string{"a", " a", "a ", "=", " = ", " =", " a = b", "a = b ", "a  = b", "a = b b", "  a  =  b  "} {
+		mustRun(t, "eq "+text, "no\n")
+		mustRun(t, "ask "+text, "no\n")
+	}
+}
+
+// Blanks and words in all orders behind the words that take a text.
+func TestBlanksAndWordsBehindACommand(t *testing.T) {
+	counts := map[string]int{}
+	eachText(" ab=", 6, "", func(text string) {
+		for _, word := range []string{"rank", "eq", "ask", "make"} {
+			line := word + " " + text
+			mustRun(t, line, linesBy(line))
+			counts[word+" "+impl.LinesRun(line)]++
+		}
+	})
+	for _, kind := range []string{"rank no\n", "rank what\n", "eq no\n", "eq what\n", "eq eq 0\n", "ask no\n", "ask what\n", "ask a\n", "ask differ\n", "make what\n"} {
+		if counts[kind] == 0 {
+			t.Errorf("no line is answered: %q", kind)
+		}
+	}
+	if counts["eq what\n"] != 7 || counts["ask what\n"] != 7 {
+		t.Errorf("%d and %d texts of no words", counts["eq what\n"], counts["ask what\n"])
+	}
+}
+
 func TestAllRankings(t *testing.T) {
 	found := 0
+	mustRun(t, "rank ", "what\n")
 	eachText("abgfx", 5, "", func(letters string) {
+		if letters == "" {
+			return
+		}
 		if !isRanking(rankOf(letters)) {
 			mustRun(t, "rank "+letters, "no\n")
 			return

@@ -87,16 +87,18 @@ func linesBy(text string) string {
 }
 
 func (r *runner) line(line string) string {
+	parts := strings.Split(line, " ")
+	words := slices.DeleteFunc(parts[1:], func(part string) bool { return part == "" })
 	if line == "make" {
 		return r.make()
 	}
-	if letters, found := strings.CutPrefix(line, "rank "); found {
+	if letters, found := strings.CutPrefix(line, "rank "); found && len(words) == 1 {
 		return r.setRank(letters)
 	}
-	if text, found := strings.CutPrefix(line, "eq "); found {
+	if text, found := strings.CutPrefix(line, "eq "); found && len(words) > 0 {
 		return r.add(text)
 	}
-	if text, found := strings.CutPrefix(line, "ask "); found {
+	if text, found := strings.CutPrefix(line, "ask "); found && len(words) > 0 {
 		return r.ask(text)
 	}
 	return "what"
@@ -193,18 +195,35 @@ func mustRun(t *testing.T, text, want string) {
 	}
 }
 
+// aloneLines have a command's word and blanks, but no word behind it.
+func aloneLines() []string {
+	var list []string
+	for _, word := range []string{"rank", "eq", "ask", "make"} {
+		list = append(list, word+" ", word+"  ", word+"       ")
+	}
+	return append(list, "rank", "eq", "ask")
+}
+
+// wordyLines have more than one word behind "rank".
+func wordyLines() []string {
+	return []string{
+		"rank fgba x", "rank fg ba", "rank fgba fgba", "rank a b g f", "rank f g b a", "rank abgf fgba", "rank a b", "rank rank fgba", "rank a = b",
+		"rank fgb a", "rank x fgba", "rank fgba x ", "rank fgba  x", "rank  fg ba", "rank fgba \r", "rank fgba \x00", "rank \xff fgba", "rank fgba \u00a0",
+	}
+}
+
 // strangeLines are no commands.
 func strangeLines() []string {
-	return []string{
+	return append(append(aloneLines(), wordyLines()...),
 		" ", "  ", "\t", "\r", "\x00", "\xff", "\u00e9", "\u2028", "=", " = ", "0", "what", "no", "all",
-		"rank", "eq", "ask", "rank\r", "eq\r", "ask\r", "make\r", "rank\t", "make\x00",
+		"rank\r", "eq\r", "ask\r", "make\r", "rank\t", "make\x00",
 		"Make", "MAKE", "RANK fgba", "Rank fgba", "EQ a = b", "Eq a = b", "ASK a = b", "Ask a = b",
 		" make", " rank fgba", " eq a = b", " ask a = b", "  eq a = b", "\tmake", "\xffmake",
-		"make ", "make  ", "make a", "make all", "make make", "make a = b", "make eq a = b", "make fgba",
+		"make a", "make all", "make make", "make a = b", "make eq a = b", "make fgba",
 		"mak", "makes", "ran", "ranks fgba", "e", "e a = b", "eqs a = b", "as a = b", "asks a = b",
 		"rankfgba", "eqa = b", "aska = b", "eq\ta = b", "ask\ta = b", "rank\tfgba", "rank=fgba", "eq=a = b", "eq,a = b",
 		"a", "a = b", "f(a,b)", "fgba", "rule b to a by 1", "stuck a = b", "long",
-	}
+	)
 }
 
 // malformedEqs are texts that are no equations.
@@ -222,11 +241,11 @@ func malformedEqs() []string {
 	return list
 }
 
-// malformedRanks are texts that are no rankings.
+// malformedRanks are texts of one word that are no rankings.
 func malformedRanks() []string {
 	return []string{
-		"", " ", "f", "fg", "gg", "fgb", "abg", "fgbaf", "fgbab", "fgbafgba", "ffff", "fgbb", "aabf", "fgbx", "fgb0", "fgb ", " gba", "0123", "4321",
-		"FGBA", "Fgba", "fgbA", "fg ba", "f g b a", "f,g,b,a", " fgba", "fgba ", "  fgba", "fgba fgba", "fgba x", "fgba\r", "fgba\x00", "\xfffgba", "fgb\u0430", "fg\u00e9", "\u00e9\u00e9",
+		"f", "fg", "gg", "fgb", "abg", "fgbaf", "fgbab", "fgbafgba", "ffff", "fgbb", "aabf", "fgbx", "fgb0", "fgb ", " gba", "0123", "4321",
+		"FGBA", "Fgba", "fgbA", "fg\tba", "fg\u00a0ba", "f,g,b,a", " fgba", "fgba ", "  fgba", " fgba ", "fgba\r", "fgba\x00", "\xfffgba", "fgb\u0430", "fg\u00e9", "\u00e9\u00e9",
 	}
 }
 
@@ -234,7 +253,7 @@ func malformedRanks() []string {
 func malformedLines() []string {
 	var list []string
 	for _, text := range malformedEqs() {
-		if !strings.Contains(text, "\n") {
+		if strings.Trim(text, " ") != "" && !strings.Contains(text, "\n") {
 			list = append(list, "eq "+text, "ask "+text)
 		}
 	}
